@@ -484,19 +484,69 @@ func TestRangeTellsWhatThereWasWhenItBegan(t *testing.T) {
 				got = append(got, part{first, many})
 			}
 			checkParts(t, c.what+" of a pool that is changed meanwhile", got, c.before...)
-			checkParts(t, c.what+", gone over again", list(s), c.behind...)
+			checkParts(t, c.what+", gone over again", list(s), c.before...)
+			checkParts(t, c.what+", asked for anew", list(c.of(p)), c.behind...)
 		}
 	}
 }
 
-// A range begins where it is gone over, not where it was asked for.
-func TestRangeBeginsWhenItIsGoneOver(t *testing.T) {
+// A range begins but once, where it is asked for: neither where it is gone over first, nor where it is gone over again.
+func TestRangeBeginsWhereItIsAskedFor(t *testing.T) {
 	for _, c := range tellings() {
 		p := changing(t)
-		s := c.of(p)
+		early, late := c.of(p), c.of(p)
+		checkParts(t, c.what+", gone over before a change", list(early), c.before...)
 		change(t, p)
-		checkParts(t, c.what+", asked for before a change", list(s), c.behind...)
+		behind := c.of(p)
+		for range 2 {
+			checkParts(t, c.what+", gone over again behind a change", list(early), c.before...)
+			checkParts(t, c.what+", gone over first behind a change", list(late), c.before...)
+			checkParts(t, c.what+", asked for behind a change", list(behind), c.behind...)
+		}
+		for first := range p.Groups() {
+			release(t, p, first)
+		}
+		checkParts(t, c.what+", behind another change", list(early), c.before...)
+		checkParts(t, c.what+", behind another change", list(late), c.before...)
+		checkParts(t, c.what+", behind another change", list(behind), c.behind...)
 	}
+}
+
+// One that is left on the way did not begin anew either.
+func TestRangeLeftAheadOfAChange(t *testing.T) {
+	for _, c := range tellings() {
+		for stop := 1; stop <= len(c.before); stop++ {
+			p := changing(t)
+			s := c.of(p)
+			n := 0
+			for range s {
+				if n++; n == stop {
+					break
+				}
+			}
+			change(t, p)
+			checkParts(t, c.what+", left ahead of a change", list(s), c.before...)
+		}
+	}
+}
+
+// Of a full pool of one block, and of a free one: what a range told is the other's nothing.
+func TestRangesOfOneBlock(t *testing.T) {
+	p := made(t, 1)
+	freeRuns, freeGroups := p.Runs(), p.Groups()
+	alloc(t, p, 1)
+	fullRuns, fullGroups := p.Runs(), p.Groups()
+	release(t, p, 0)
+	for range 2 {
+		checkParts(t, "Runs of a free pool", list(freeRuns), part{0, 1})
+		checkParts(t, "Groups of a free pool", list(freeGroups))
+		checkParts(t, "Runs of a full pool", list(fullRuns))
+		checkParts(t, "Groups of a full pool", list(fullGroups), part{0, 1})
+		alloc(t, p, 1)
+		release(t, p, 0)
+	}
+	checkParts(t, "Runs, asked for anew", list(p.Runs()), part{0, 1})
+	checkParts(t, "Groups, asked for anew", list(p.Groups()))
 }
 
 func TestTwoRangesAtOnce(t *testing.T) {
@@ -506,11 +556,12 @@ func TestTwoRangesAtOnce(t *testing.T) {
 			s, within := outer.of(p), inner.of(p)
 			var got []part
 			for first, many := range s {
-				want := inner.before
+				anew := inner.before
 				if len(got) > 0 {
-					want = inner.behind
+					anew = inner.behind
 				}
-				checkParts(t, inner.what+" within "+outer.what, list(within), want...)
+				checkParts(t, inner.what+" within "+outer.what, list(within), inner.before...)
+				checkParts(t, inner.what+", asked for within "+outer.what, list(inner.of(p)), anew...)
 				if len(got) == 0 {
 					change(t, p)
 				}
