@@ -56,8 +56,10 @@ func TestEveryFewCalls(t *testing.T) {
 	for words := 1; words <= 6; words++ {
 		for row := range rows {
 			p := &pair{stackIn(t, arenaOf(t, words), 0, words), rule{words: words}}
-			for left := row; left > 0; left /= len(calls) {
+			left := row
+			for range 5 {
 				calls[left%len(calls)](p)
+				left /= len(calls)
 				p.check(t, "behind a few calls")
 			}
 			if t.Failed() {
