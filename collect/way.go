@@ -25,17 +25,44 @@ func (c *collection) pointer(at, i int) int {
 	return p
 }
 
-// next tells where a pointer goes on from a spot; at 0, if it stays. One KSel less is left behind a KSel, and in its own pointer: so no more than Hops are ever one behind the other.
-func (c *collection) next(s spot) spot {
-	x, _ := c.heap.Head(c.here(s.at))
-	switch {
-	case x.Kind == api.KInd:
-		return spot{c.pointer(s.at, 0), s.hops}
-	case x.Kind == api.KSel && s.hops > 0:
-		of := c.end(spot{c.pointer(s.at, 0), s.hops - 1})
-		return spot{c.field(s.at, x.Info, of), s.hops - 1}
+// past tells where a pointer comes to over KInds alone. It is found once for all KInds on the way, for rows may be long and many pointers may lead into one. Each closure on the way ends at itself till its end is found: who comes back there went round a ring, and stays at it. KInds are passed over whatever hops are left, so that all pointers into a ring come to the same one of it.
+func (c *collection) past(at int) int {
+	var way []int
+	for {
+		if end, known := c.pasts[at]; known {
+			at = end
+			break
+		}
+		c.pasts[at] = at
+		way = append(way, at)
+		to := c.on(at)
+		if to == 0 {
+			break
+		}
+		at = to
 	}
-	return spot{}
+	for _, p := range way {
+		c.pasts[p] = at
+	}
+	return at
+}
+
+// on tells where a KInd points to; 0 of all others.
+func (c *collection) on(at int) int {
+	if x, _ := c.heap.Head(c.here(at)); x.Kind != api.KInd {
+		return 0
+	}
+	return c.pointer(at, 0)
+}
+
+// behind tells where a pointer goes on from a KSel; at 0, if it stays. One KSel less is left behind it, and in its own pointer: so no more than Hops are ever one behind the other.
+func (c *collection) behind(s spot) spot {
+	x, _ := c.heap.Head(c.here(s.at))
+	if x.Kind != api.KSel || s.hops == 0 {
+		return spot{}
+	}
+	of := c.end(spot{c.pointer(s.at, 0), s.hops - 1})
+	return spot{c.field(s.at, x.Info, of), s.hops - 1}
 }
 
 // field tells the field that a KSel is for, of what its pointer leads to; 0, if that has none.
@@ -48,19 +75,19 @@ func (c *collection) field(sel, info, of int) int {
 	return c.pointer(of, int(i))
 }
 
-// end tells what a pointer comes to when it is passed over. It is found once for all spots on the way, for rows may be long and many pointers may lead into one. Each spot on the way ends at itself till its end is found: who comes back there went round a ring of KInds, and stays at it.
+// end tells what a pointer comes to when it is passed over. It is found once for all spots on the way.
 func (c *collection) end(s spot) int {
 	var way []spot
 	at := 0
 	for s.at != 0 {
+		s.at = c.past(s.at)
 		at = s.at
 		if end, known := c.ends[s]; known {
 			at = end
 			break
 		}
-		c.ends[s] = at
 		way = append(way, s)
-		s = c.next(s)
+		s = c.behind(s)
 	}
 	for _, on := range way {
 		c.ends[on] = at
